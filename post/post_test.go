@@ -5,6 +5,7 @@ import (
 	"math"
 	"math/rand"
 	"reflect"
+	"runtime"
 	"slices"
 	"testing"
 
@@ -373,6 +374,33 @@ func TestACopyIsApart(t *testing.T) { // P2: a Post is a struct, which may be co
 			same(t, "another copy", &b, y)
 			same(t, "what was copied", p, z)
 		}
+	}
+}
+
+func TestWhatCameIsNotKept(t *testing.T) {
+	kept := func() int {
+		var m runtime.MemStats
+		runtime.GC()
+		runtime.ReadMemStats(&m)
+		return int(m.HeapAlloc)
+	}
+	for what, at := range map[string]func(p *post.Post) int{
+		"the first": func(p *post.Post) int { return 0 },
+		"the last":  func(p *post.Post) int { return p.Len() - 1 },
+	} {
+		ahead := kept()
+		var p post.Post
+		for range 33 {
+			p.Put(post.Mail{Bytes: make([]byte, 1<<20)})
+		}
+		full := kept() - ahead
+		for p.Len() > 1 {
+			p.Take(at(&p))
+		}
+		if one := kept() - ahead; full < 32<<20 || one > 4<<20 {
+			t.Errorf("%s came: of %d bytes %d are kept", what, full, one)
+		}
+		runtime.KeepAlive(&p)
 	}
 }
 
