@@ -2,6 +2,7 @@ package replica
 
 import (
 	"bytes"
+	"maps"
 	"slices"
 
 	"scrivener/api"
@@ -36,8 +37,27 @@ func (r *Replica) turn() []Out {
 	if r.Round() < 0 {
 		return nil
 	}
-	sent := r.core.Join() // nothing, but behind a crash
-	return r.say(append(sent, r.core.Tick()...))
+	sent := append(r.core.Join(), r.overdue()...) // Join: nothing, but behind a crash
+	list := r.say(append(sent, r.core.Tick()...))
+	return append(list, r.conclude()...)
+}
+
+// foresee: votes for a later height are heard with the clock when that is here, as who cast them may tell them no more by then: of each the most.
+func (r *Replica) foresee(from int, m api.Msg) {
+	votes := m.IDs[:min(len(m.IDs), 2*count.MaxRounds)]
+	if key := (ballot{from, m.Height}); m.Kind == core.State && len(votes) > len(r.early[key]) {
+		r.early[key] = slices.Clone(votes)
+	}
+}
+
+// overdue: votes that were told ahead of the height here are heard, if they weren't yet.
+func (r *Replica) overdue() []api.Msg {
+	var sent []api.Msg
+	for who := range r.voters {
+		m := api.Msg{Kind: core.State, Who: who, Height: r.here(), IDs: r.early[ballot{who, r.here()}]}
+		sent = append(sent, r.core.Hear(who, m)...)
+	}
+	return sent
 }
 
 // say: what the core sends is kept, and then told; and what was agreed upon by it is done.
@@ -75,6 +95,34 @@ func (r *Replica) reckon(from int, batch []byte) []Out {
 	return r.agreed(batch)
 }
 
+// conclude: who is at a later height tells no votes of this one any more, and where these were lost the others would wait for them for ever. So who says what was agreed upon counts, with the clock, as having voted late for it.
+func (r *Replica) conclude() []Out {
+	for who := range r.voters {
+		if batch, there := r.said[who]; there && !r.halted && r.settled(batch) {
+			return r.agreed(batch)
+		}
+	}
+	return nil
+}
+
+// settled: were those who voted late for a batch in some round, and those who say that it was agreed upon, so many that nothing else can be?
+func (r *Replica) settled(batch []byte) bool {
+	id := core.ID(batch)
+	for n := range count.MaxRounds {
+		many := 0
+		for who := range r.voters {
+			said, there := r.said[who]
+			if r.core.Vote(n, count.Precommit, who) == id || there && bytes.Equal(said, batch) {
+				many++
+			}
+		}
+		if many >= count.Need(r.voters) {
+			return true
+		}
+	}
+	return false
+}
+
 // agreed: a batch was agreed upon here.
 func (r *Replica) agreed(batch []byte) []Out {
 	m := r.message(Decided)
@@ -105,6 +153,7 @@ func (r *Replica) next() {
 	clear(r.known)
 	clear(r.gave)
 	clear(r.said)
+	maps.DeleteFunc(r.early, func(b ballot, _ []api.ID) bool { return b.height < r.here() })
 	r.core = nil
 	if r.here() <= head.MaxHeight {
 		r.core, _ = core.New(r.voters, r.me, r.here())
